@@ -425,12 +425,7 @@ func boundarySpace(x Complex, n int64) []vector {
 // homologySpace returns the homology list of the degree n. Boundaries are cycles, so the rests of
 // the cycles make all cycles with 0 at the leads of the boundaries.
 func homologySpace(x Complex, n int64) []vector {
-	boundaries := boundarySpace(x, n)
-	rests := cycleSpace(x, n)
-	for i, cycle := range rests {
-		rests[i] = restModulo(x.Prime, cycle, boundaries)
-	}
-	return reducedList(x.Prime, rests)
+	return spaceOfRests(x.Prime, cycleSpace(x, n), boundarySpace(x, n))
 }
 
 // homologyNumber returns the homology number of the degree n.
@@ -506,6 +501,16 @@ func restModulo(p int64, v vector, reduced []vector) vector {
 		v = minusMultiple(p, v, v[leadOf(w)], w)
 	}
 	return v
+}
+
+// spaceOfRests returns the reduced list of the space of the rests of the rows of a list modulo a
+// reduced list.
+func spaceOfRests(p int64, list []vector, reduced []vector) []vector {
+	rests := make([]vector, len(list))
+	for i, v := range list {
+		rests[i] = restModulo(p, v, reduced)
+	}
+	return reducedList(p, rests)
 }
 
 // unitLines returns the rows that are not 0 with 1 as their leads, each of these vectors once: rows

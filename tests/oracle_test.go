@@ -221,15 +221,19 @@ func (k known) changeBasis(g *numbers) {
 	}
 	i := g.below(k.Dims[n])
 	j := (i + 1 + g.below(k.Dims[n]-1)) % k.Dims[n]
-	factor := g.below(k.Prime)
+	addToBasis(k.Complex, n, i, j, g.below(k.Prime))
+}
+
+// addToBasis adds a multiple of the basis vector j of the degree n to the basis vector i.
+func addToBasis(x impl.Complex, n int64, i int64, j int64, factor int64) {
 	if n > 0 {
-		for c := range k.Maps[n-1][i] {
-			k.Maps[n-1][i][c] = (k.Maps[n-1][i][c] + factor*k.Maps[n-1][j][c]) % k.Prime
+		for c := range x.Maps[n-1][i] {
+			x.Maps[n-1][i][c] = (x.Maps[n-1][i][c] + factor*x.Maps[n-1][j][c]) % x.Prime
 		}
 	}
-	if int(n) < len(k.Maps) {
-		for _, row := range k.Maps[n] {
-			row[j] = (row[j] + (k.Prime-factor)*row[i]) % k.Prime
+	if int(n) < len(x.Maps) {
+		for _, row := range x.Maps[n] {
+			row[j] = (row[j] + (x.Prime-factor)*row[i]) % x.Prime
 		}
 	}
 }
