@@ -318,6 +318,12 @@ func topOf(x Complex) int64 {
 	return int64(len(x.Dims)) - 1
 }
 
+// exceedsLimits reports whether what is a complex otherwise has too many degrees, or too great a
+// dimension.
+func exceedsLimits(x Complex) bool {
+	return topOf(x) > MaxTop || slices.Max(x.Dims) > MaxDim
+}
+
 // dimAt returns the dimension of the degree n, 0 beyond the degrees of x.
 func dimAt(x Complex, n int64) int64 {
 	if !isWithin(n, 0, topOf(x)) {

@@ -190,27 +190,41 @@ type known struct {
 
 // knownComplex makes a complex of pieces with one or two basis vectors, and then changes its bases.
 func knownComplex(g *numbers, p int64, top int64) known {
-	k := known{Ranks: make([]int64, top+2), Holes: make([]int64, top+1)}
-	k.Prime, k.Dims, k.Maps = p, make([]int64, top+1), make([][][]int64, top)
-	for n := range k.Holes {
-		k.Holes[n] = g.below(3)
-		if n > 0 {
-			k.Ranks[n] = g.below(4)
-		}
-	}
-	for n := range k.Dims {
-		k.Dims[n] = k.Ranks[n+1] + k.Holes[n] + k.Ranks[n]
-	}
-	for n := range k.Maps {
-		k.Maps[n] = g.table(1, k.Dims[n+1], k.Dims[n])
-		for i := range k.Ranks[n+1] {
-			k.Maps[n][k.Dims[n+1]-1-i][i] = 1
-		}
-	}
+	k := randomParts(g, top, 3, 4)
+	k.build(p)
 	for range 60 {
 		k.changeBasis(g)
 	}
 	return k
+}
+
+// randomParts returns the ranks and homology numbers of a complex, each of them less than a bound.
+func randomParts(g *numbers, top int64, holes int64, ranks int64) known {
+	k := known{Ranks: make([]int64, top+2), Holes: make([]int64, top+1)}
+	for n := range k.Holes {
+		k.Holes[n] = g.below(holes)
+		if n > 0 {
+			k.Ranks[n] = g.below(ranks)
+		}
+	}
+	return k
+}
+
+// build makes the complex of the told ranks and homology numbers. In each degree it has first the
+// basis vectors that are differentials, then the holes, and behind them, in the reverse order, those
+// that lead to the differentials of the degree below.
+func (k *known) build(p int64) {
+	top := len(k.Holes) - 1
+	k.Prime, k.Dims, k.Maps = p, make([]int64, top+1), make([][][]int64, top)
+	for n := range k.Dims {
+		k.Dims[n] = k.Ranks[n+1] + k.Holes[n] + k.Ranks[n]
+	}
+	for n := range k.Maps {
+		k.Maps[n] = zeros(k.Dims[n+1], k.Dims[n])
+		for i := range k.Ranks[n+1] {
+			k.Maps[n][k.Dims[n+1]-1-i][i] = 1
+		}
+	}
 }
 
 // changeBasis adds a multiple of one basis vector to another one of the same degree.
