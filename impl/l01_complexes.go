@@ -340,6 +340,15 @@ func mapAt(x Complex, k int64) [][]int64 {
 	return x.Maps[k]
 }
 
+// differentialTable returns the table of the differential from the degree n, whose rows have no
+// numbers in the degree 0.
+func differentialTable(x Complex, n int64) [][]int64 {
+	if n == 0 {
+		return zeroTable(x.Dims[0], 0)
+	}
+	return x.Maps[n-1]
+}
+
 // applyTable returns the sum of the numbers of v times the rows of a table with the given number
 // of columns.
 func applyTable(p int64, v []int64, table [][]int64, columns int64) []int64 {
@@ -416,11 +425,7 @@ func spaceAt(x Complex, n int64, space func(Complex, int64) []vector) ([][]int64
 
 // cycleSpace returns the reduced list of the cycles of the degree n.
 func cycleSpace(x Complex, n int64) []vector {
-	var columns []vector
-	if n > 0 {
-		columns = vectorsOf(transposedTable(x.Maps[n-1], x.Dims[n-1]))
-	}
-	return annihilator(x.Prime, x.Dims[n], columns)
+	return kernelSpace(x.Prime, differentialTable(x, n), dimAt(x, n-1))
 }
 
 // boundarySpace returns the reduced list of the boundaries of the degree n.
@@ -519,6 +524,18 @@ func spaceOfRests(p int64, list []vector, reduced []vector) []vector {
 	return reducedList(p, rests)
 }
 
+// classNumbers returns the numbers of the vectors of a basis whose sum is v, up to a vector of a
+// bottom. The basis is a reduced list with 0 at the leads of the bottom, so that the rest of v
+// modulo the bottom has these numbers at the leads of the basis.
+func classNumbers(p int64, v vector, bottom []vector, basis []vector) []int64 {
+	rest := restModulo(p, v, bottom)
+	numbers := make([]int64, len(basis))
+	for i, w := range basis {
+		numbers[i] = rest[leadOf(w)]
+	}
+	return numbers
+}
+
 // unitLines returns the rows that are not 0 with 1 as their leads, each of these vectors once: rows
 // that are multiples of each other make the same space, and need only one elimination.
 func unitLines(p int64, list []vector) []vector {
@@ -587,6 +604,12 @@ func annihilator(p int64, n int64, list []vector) []vector {
 		solutions = append(solutions, v)
 	}
 	return reducedList(p, solutions)
+}
+
+// kernelSpace returns the reduced list of the vectors of which a table with the given number of
+// columns makes 0.
+func kernelSpace(p int64, table [][]int64, columns int64) []vector {
+	return annihilator(p, int64(len(table)), vectorsOf(transposedTable(table, columns)))
 }
 
 // sumSpace returns the reduced list of the least space with all rows of a and b.
