@@ -56,10 +56,10 @@ func IsComplex(x Complex) bool {
 
 // DifferentialOf returns the differential of a vector v of the degree n, in 0..top, and ErrNone.
 func DifferentialOf(x Complex, n int64, v []int64) ([]int64, int64) {
-	if code := checkDegree(x, n); code != ErrNone {
-		return nil, code
+	if !IsComplex(x) {
+		return nil, ErrInvalid
 	}
-	if !isRow(x.Prime, v, x.Dims[n]) {
+	if !isVector(x, n, v) {
 		return nil, ErrRange
 	}
 	if n == 0 {
@@ -122,11 +122,8 @@ func EulerNumber(x Complex) (int64, int64) {
 // AddComplexes returns the sum, and ErrNone. Errors: ErrRange if the primes are different;
 // ErrLimit if a dimension would be greater than MaxDim.
 func AddComplexes(x Complex, y Complex) (Complex, int64) {
-	if !IsComplex(x) || !IsComplex(y) {
-		return Complex{}, ErrInvalid
-	}
-	if x.Prime != y.Prime {
-		return Complex{}, ErrRange
+	if code := checkPrimes(x, y); code != ErrNone {
+		return Complex{}, code
 	}
 	top := max(topOf(x), topOf(y))
 	sum := Complex{Prime: x.Prime, Dims: make([]int64, top+1), Maps: make([][][]int64, top)}
@@ -311,6 +308,26 @@ func checkDegree(x Complex, n int64) int64 {
 		return ErrRange
 	}
 	return ErrNone
+}
+
+// checkPrimes returns the code for complexes that have to have the same Prime.
+func checkPrimes(complexes ...Complex) int64 {
+	for _, x := range complexes {
+		if !IsComplex(x) {
+			return ErrInvalid
+		}
+	}
+	for _, x := range complexes {
+		if x.Prime != complexes[0].Prime {
+			return ErrRange
+		}
+	}
+	return ErrNone
+}
+
+// isVector reports whether n is a degree of x, and v a vector of it.
+func isVector(x Complex, n int64, v []int64) bool {
+	return isWithin(n, 0, topOf(x)) && isRow(x.Prime, v, x.Dims[n])
 }
 
 // topOf returns the greatest degree of x.

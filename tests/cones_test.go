@@ -148,15 +148,9 @@ func plainCone(x impl.Complex, y impl.Complex, f tables) impl.Complex {
 		cone.Dims = append(cone.Dims, int64(len(coneLabels(x, y, n))))
 	}
 	for n := int64(1); int(n) < len(cone.Dims); n++ {
-		table := [][]int64{}
-		for _, from := range coneLabels(x, y, n) {
-			row := []int64{}
-			for _, to := range coneLabels(x, y, n-1) {
-				row = append(row, coneNumber(x, y, f, from, to))
-			}
-			table = append(table, row)
-		}
-		cone.Maps = append(cone.Maps, table)
+		cone.Maps = append(cone.Maps, tableOf(coneLabels(x, y, n), coneLabels(x, y, n-1), func(from coneLabel, to coneLabel) int64 {
+			return coneNumber(x, y, f, from, to)
+		}))
 	}
 	return cone
 }

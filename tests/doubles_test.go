@@ -446,21 +446,15 @@ func labelsOf(x impl.Double, n int64) []label {
 func plainTotal(x impl.Double) impl.Complex {
 	total := impl.Complex{Prime: x.Prime, Dims: totalDims(x)}
 	for n := int64(1); int(n) < len(total.Dims); n++ {
-		var table [][]int64
-		for _, from := range labelsOf(x, n) {
-			var row []int64
-			for _, to := range labelsOf(x, n-1) {
-				number := int64(0)
-				if to.j == from.j {
-					number = x.Across[from.i][from.j][from.place][to.place]
-				} else if to.i == from.i {
-					number = x.Down[from.i][from.j][from.place][to.place]
-				}
-				row = append(row, number)
+		total.Maps = append(total.Maps, tableOf(labelsOf(x, n), labelsOf(x, n-1), func(from label, to label) int64 {
+			switch {
+			case to.j == from.j:
+				return x.Across[from.i][from.j][from.place][to.place]
+			case to.i == from.i:
+				return x.Down[from.i][from.j][from.place][to.place]
 			}
-			table = append(table, row)
-		}
-		total.Maps = append(total.Maps, table)
+			return 0
+		}))
 	}
 	return total
 }

@@ -2,9 +2,7 @@ package tests
 
 import (
 	"fmt"
-	"reflect"
 	"slices"
-	"strings"
 	"testing"
 
 	"loop.example/g01273/impl"
@@ -20,39 +18,23 @@ type given4 struct {
 	k, s          int64
 }
 
-// call4 is a call of a function of chapter 4. The names of the arguments that it takes are told by
-// one letter each, next by t; there is c for those that need chain maps, and l for limits.
-type call4 struct {
-	name, takes string
-	run         func() []any
-}
-
-// callsWith4 lists a call of each function of chapter 4.
-func callsWith4(a given4) []call4 {
-	return []call4{
-		{"IsChainMap", "xyf", func() []any { return all(impl.IsChainMap(a.x, a.y, a.f)) }},
-		{"IdentityMap", "x", func() []any { return all(impl.IdentityMap(a.x)) }},
-		{"ApplyFamily", "xyfnv", func() []any { return all(impl.ApplyFamily(a.x, a.y, a.f, a.n, a.v)) }},
-		{"ComposeFamilies", "xyzft", func() []any { return all(impl.ComposeFamilies(a.x, a.y, a.z, a.f, a.next)) }},
-		{"AddFamilies", "xyfgk", func() []any { return all(impl.AddFamilies(a.x, a.y, a.f, a.g, a.k)) }},
-		{"ConeOf", "xyfcl", func() []any { return all(impl.ConeOf(a.x, a.y, a.f)) }},
-		{"InducedRank", "xyfcn", func() []any { return all(impl.InducedRank(a.x, a.y, a.f, a.n)) }},
-		{"IsQuasi", "xyfc", func() []any { return all(impl.IsQuasi(a.x, a.y, a.f)) }},
-		{"LongSequence", "xyfc", func() []any { return all(impl.LongSequence(a.x, a.y, a.f)) }},
-		{"IsHomotopy", "xyfgch", func() []any { return all(impl.IsHomotopy(a.x, a.y, a.f, a.g, a.h)) }},
-		{"AreHomotopic", "xyfgc", func() []any { return all(impl.AreHomotopic(a.x, a.y, a.f, a.g)) }},
-		{"ZeroFamily", "xys", func() []any { return all(impl.ZeroFamily(a.x, a.y, a.s)) }},
+// callsWith4 lists a call of each function of chapter 4. The family next is told by t.
+func callsWith4(a given4) []call {
+	exceeds := func() bool { return !hasCone(a.x, a.y) }
+	return []call{
+		{"IsChainMap", "xyf", nil, func() []any { return all(impl.IsChainMap(a.x, a.y, a.f)) }},
+		{"IdentityMap", "x", nil, func() []any { return all(impl.IdentityMap(a.x)) }},
+		{"ApplyFamily", "xyfnv", nil, func() []any { return all(impl.ApplyFamily(a.x, a.y, a.f, a.n, a.v)) }},
+		{"ComposeFamilies", "xyzft", nil, func() []any { return all(impl.ComposeFamilies(a.x, a.y, a.z, a.f, a.next)) }},
+		{"AddFamilies", "xyfgk", nil, func() []any { return all(impl.AddFamilies(a.x, a.y, a.f, a.g, a.k)) }},
+		{"ConeOf", "xyfc", exceeds, func() []any { return all(impl.ConeOf(a.x, a.y, a.f)) }},
+		{"InducedRank", "xyfcn", nil, func() []any { return all(impl.InducedRank(a.x, a.y, a.f, a.n)) }},
+		{"IsQuasi", "xyfc", nil, func() []any { return all(impl.IsQuasi(a.x, a.y, a.f)) }},
+		{"LongSequence", "xyfc", nil, func() []any { return all(impl.LongSequence(a.x, a.y, a.f)) }},
+		{"IsHomotopy", "xyfgch", nil, func() []any { return all(impl.IsHomotopy(a.x, a.y, a.f, a.g, a.h)) }},
+		{"AreHomotopic", "xyfgc", nil, func() []any { return all(impl.AreHomotopic(a.x, a.y, a.f, a.g)) }},
+		{"ZeroFamily", "xys", nil, func() []any { return all(impl.ZeroFamily(a.x, a.y, a.s)) }},
 	}
-}
-
-// flaw is something wrong with one argument, told by its letter. It makes calls fail that take all
-// arguments of a list of letters.
-type flaw struct {
-	argument string
-	wrong    any
-	code     int64
-	touches  string
-	apply    func(*given4)
 }
 
 // givenOf returns arguments without a flaw, made from a known map.
@@ -67,160 +49,37 @@ func givenOf(g *numbers, m knownMap) given4 {
 	}
 }
 
-// flatOf returns a complex with the differentials 0.
-func flatOf(p int64, dims ...int64) impl.Complex {
-	x := complexOf(p, dims)
-	for n := 1; n < len(dims); n++ {
-		x.Maps = append(x.Maps, zeros(dims[n], dims[n-1]))
-	}
-	return x
-}
-
-// complexFlaws lists flaws of the complex at a place: what is no complex, and what does not fit to
-// the other ones.
-func complexFlaws(letter string, x impl.Complex, place func(*given4) *impl.Complex, wrong []impl.Complex) []flaw {
-	var list []flaw
-	for _, bad := range wrong {
-		list = append(list, flaw{letter, bad, impl.ErrInvalid, letter, func(a *given4) { *place(a) = bad }})
-	}
-	var others []impl.Complex
-	for _, p := range []int64{2, 3, 5, 7} {
-		if p != x.Prime {
-			others = append(others, flatOf(p, x.Dims...))
-		}
-	}
-	if len(x.Dims) <= impl.MaxTop {
-		others = append(others, flatOf(x.Prime, append(slices.Clone(x.Dims), 0)...))
-	}
-	if len(x.Dims) > 1 {
-		others = append(others, flatOf(x.Prime, x.Dims[1:]...), flatOf(x.Prime, x.Dims[:len(x.Dims)-1]...))
-	}
-	touches := letter + "xy"
-	for _, other := range others {
-		list = append(list, flaw{letter, other, impl.ErrRange, touches, func(a *given4) { *place(a) = other }})
-	}
-	return list
-}
-
-// familyFlaws lists flaws of a family: lists of wrong lengths, and wrong numbers.
-func familyFlaws(letter string, p int64, f tables, place func(*given4) *tables) []flaw {
-	var list []flaw
-	for _, bad := range changesOf(reflect.ValueOf(f), append([]int64{p, p + 1, 5 + p}, farNumbers...)) {
-		family := bad.Interface().(tables)
-		list = append(list, flaw{letter, family, impl.ErrRange, letter, func(a *given4) { *place(a) = family }})
-	}
-	return list
-}
-
-// numberFlaws lists flaws of a number that is outside of low..high.
-func numberFlaws(letter string, low int64, high int64, place func(*given4) *int64) []flaw {
-	var list []flaw
-	for _, bad := range append([]int64{low - 1, high + 1, high + 2, low - 100, high + 1<<32}, farNumbers...) {
-		if bad < low || bad > high {
-			list = append(list, flaw{letter, bad, impl.ErrRange, letter, func(a *given4) { *place(a) = bad }})
-		}
-	}
-	return list
-}
-
-// vectorFlaws lists flaws of the vector.
-func vectorFlaws(a given4) []flaw {
-	var list []flaw
-	for _, bad := range changesOf(reflect.ValueOf(a.v), append([]int64{a.x.Prime, a.x.Prime + 1}, farNumbers...)) {
-		v := bad.Interface().([]int64)
-		list = append(list, flaw{"v", v, impl.ErrRange, "v", func(a *given4) { a.v = v }})
-	}
-	return list
-}
-
-// stateFlaws lists flaws of families that have to be chain maps, if there is another family at all.
-func stateFlaws(random *numbers, a given4) []flaw {
-	var list []flaw
-	for range 20 {
-		f, ok := changed(random, a.x.Prime, a.f)
-		if ok && !plainIsChainMap(a.x, a.y, f) {
-			list = append(list, flaw{"f", f, impl.ErrState, "fc", func(a *given4) { a.f = f }},
-				flaw{"g", f, impl.ErrState, "gc", func(a *given4) { a.g = f }})
-		}
-	}
-	return list
+// endFlaws lists flaws of the complex at a place: what is no complex, and what does not fit to the
+// other ones.
+func endFlaws(letter string, x impl.Complex, place func(*given4) *impl.Complex, wrong []impl.Complex) []flaw[given4] {
+	others := slices.Concat(otherPrimes(x), otherTops(x))
+	return slices.Concat(complexFlaws(letter, impl.ErrInvalid, letter, place, wrong), complexFlaws(letter, impl.ErrRange, letter+"xy", place, others))
 }
 
 // flawsOf lists flaws of each kind for arguments, kind by kind.
-func flawsOf(random *numbers, a given4, wrong []impl.Complex) [][]flaw {
-	return [][]flaw{
-		complexFlaws("x", a.x, func(a *given4) *impl.Complex { return &a.x }, wrong),
-		complexFlaws("y", a.y, func(a *given4) *impl.Complex { return &a.y }, wrong),
-		complexFlaws("z", a.z, func(a *given4) *impl.Complex { return &a.z }, wrong),
-		familyFlaws("f", a.x.Prime, a.f, func(a *given4) *tables { return &a.f }),
-		familyFlaws("g", a.x.Prime, a.g, func(a *given4) *tables { return &a.g }),
-		familyFlaws("t", a.x.Prime, a.next, func(a *given4) *tables { return &a.next }),
-		familyFlaws("h", a.x.Prime, a.h, func(a *given4) *tables { return &a.h }),
+func flawsOf(random *numbers, a given4, wrong []impl.Complex) [][]flaw[given4] {
+	p := a.x.Prime
+	return [][]flaw[given4]{
+		endFlaws("x", a.x, func(a *given4) *impl.Complex { return &a.x }, wrong),
+		endFlaws("y", a.y, func(a *given4) *impl.Complex { return &a.y }, wrong),
+		endFlaws("z", a.z, func(a *given4) *impl.Complex { return &a.z }, wrong),
+		familyFlaws("f", p, a.f, func(a *given4) *tables { return &a.f }),
+		familyFlaws("g", p, a.g, func(a *given4) *tables { return &a.g }),
+		familyFlaws("t", p, a.next, func(a *given4) *tables { return &a.next }),
+		familyFlaws("h", p, a.h, func(a *given4) *tables { return &a.h }),
 		numberFlaws("n", 0, int64(len(a.x.Dims))-1, func(a *given4) *int64 { return &a.n }),
-		numberFlaws("k", 0, a.x.Prime-1, func(a *given4) *int64 { return &a.k }),
+		numberFlaws("k", 0, p-1, func(a *given4) *int64 { return &a.k }),
 		numberFlaws("s", 0, 1, func(a *given4) *int64 { return &a.s }),
-		vectorFlaws(a),
-		stateFlaws(random, a),
+		vectorFlaws("v", p, a.v, func(a *given4) *[]int64 { return &a.v }),
+		stateFlaws(random, "f", a.x, a.y, a.f, func(a *given4) *tables { return &a.f }),
+		stateFlaws(random, "g", a.x, a.y, a.g, func(a *given4) *tables { return &a.g }),
 	}
 }
 
-// orderOfCodes lists the codes of chapter 4 in the order in which they are checked.
-var orderOfCodes = []int64{impl.ErrInvalid, impl.ErrRange, impl.ErrState, impl.ErrLimit, impl.ErrNone}
-
-// takesAll reports whether a call takes all arguments of a list.
-func takesAll(takes string, letters string) bool {
-	for _, letter := range letters {
-		if !strings.ContainsRune(takes, letter) {
-			return false
-		}
-	}
-	return true
-}
-
-// expectFlaws checks the codes of all calls with flaws of different arguments: each call returns that
-// of its flaws which is checked first.
-func expectFlaws(t *testing.T, a given4, flaws ...flaw) {
-	t.Helper()
-	limit := int64(impl.ErrNone)
-	if !hasCone(a.x, a.y) {
-		limit = impl.ErrLimit
-	}
-	name := ""
-	for _, one := range flaws {
-		one.apply(&a)
-		name += fmt.Sprintf("%s as %v; ", one.argument, one.wrong)
-	}
-	for _, call := range callsWith4(a) {
-		want := int64(impl.ErrNone)
-		if takesAll(call.takes, "l") {
-			want = limit
-		}
-		for _, one := range flaws {
-			if takesAll(call.takes, one.touches) && slices.Index(orderOfCodes, one.code) < slices.Index(orderOfCodes, want) {
-				want = one.code
-			}
-		}
-		expectCode(t, call.name+" with "+name, want, call.run())
-	}
-}
-
-// someOf returns at most the given number of flaws of a list, each code among them.
-func someOf(random *numbers, list []flaw, count int) []flaw {
-	var some []flaw
-	for _, code := range orderOfCodes {
-		kind := slices.DeleteFunc(slices.Clone(list), func(one flaw) bool { return one.code != code })
-		for range min(count, len(kind)) {
-			some = append(some, kind[random.below(int64(len(kind)))])
-		}
-	}
-	return some
-}
-
-// undo reports whether one of two flaws may take back the other one: both of one argument, or of two
-// complexes that do not fit to others, but perhaps to each other.
-func undo(one flaw, other flaw) bool {
-	bothComplexes := takesAll("xyz", one.argument+other.argument)
-	return one.argument == other.argument || bothComplexes && one.code == impl.ErrRange && other.code == impl.ErrRange
+// undo4 reports whether one of two flaws may take back the other one: both of complexes that do not fit
+// to others, but perhaps to each other.
+func undo4(one flaw[given4], other flaw[given4]) bool {
+	return takesAll("xyz", one.argument+other.argument) && one.code == impl.ErrRange && other.code == impl.ErrRange
 }
 
 func TestErrorsOfChapter4(t *testing.T) {
@@ -228,26 +87,10 @@ func TestErrorsOfChapter4(t *testing.T) {
 	wrong := noComplexes()
 	for at, m := range knownMaps(1) {
 		a := givenOf(random, m)
-		expectFlaws(t, a)
 		kinds := flawsOf(random, a, wrong)
-		for _, list := range kinds {
-			for _, one := range someOf(random, list, 12) {
-				expectFlaws(t, a, one)
-			}
-		}
-		if at%2 == 1 { // one small and one great map of each top are enough for pairs of flaws
-			continue
-		}
-		for i, list := range kinds {
-			for _, others := range kinds[:i] {
-				for _, one := range someOf(random, list, 2) {
-					for _, other := range someOf(random, others, 2) {
-						if !undo(one, other) {
-							expectFlaws(t, a, one, other)
-						}
-					}
-				}
-			}
+		expectSingleFlaws(t, random, a, callsWith4, kinds, 12)
+		if at%2 == 0 { // one small and one great map of each top are enough for pairs of flaws
+			expectPairsOfFlaws(t, random, a, callsWith4, kinds, undo4)
 		}
 	}
 }
@@ -260,7 +103,7 @@ func TestEachErrorOfChapter4(t *testing.T) {
 			a := givenOf(random, anyMap(random, p, top, 2, 2))
 			for _, list := range flawsOf(random, a, noComplexes()) {
 				for _, one := range list {
-					expectFlaws(t, a, one)
+					expectFlaws(t, a, callsWith4, one)
 				}
 			}
 		}

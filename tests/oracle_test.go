@@ -181,6 +181,20 @@ func expectSameSpace(t *testing.T, name string, p int64, n int64, list [][]int64
 	}
 }
 
+// tableOf returns the table of the numbers that a function tells of each label of a row together with
+// each label of a column.
+func tableOf[L any](rows []L, columns []L, number func(from L, to L) int64) [][]int64 {
+	table := [][]int64{}
+	for _, from := range rows {
+		row := []int64{}
+		for _, to := range columns {
+			row = append(row, number(from, to))
+		}
+		table = append(table, row)
+	}
+	return table
+}
+
 // known is a complex of which the ranks of the differentials and the homology numbers are known.
 type known struct {
 	impl.Complex
@@ -190,7 +204,12 @@ type known struct {
 
 // knownComplex makes a complex of pieces with one or two basis vectors, and then changes its bases.
 func knownComplex(g *numbers, p int64, top int64) known {
-	k := randomParts(g, top, 3, 4)
+	return knownWith(g, p, top, 3, 4)
+}
+
+// knownWith makes a known complex with homology numbers and ranks less than the bounds.
+func knownWith(g *numbers, p int64, top int64, holes int64, ranks int64) known {
+	k := randomParts(g, top, holes, ranks)
 	k.build(p)
 	for range 60 {
 		k.changeBasis(g)
