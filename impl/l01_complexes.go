@@ -37,21 +37,7 @@ type vector [MaxRows]int64
 
 // IsComplex reports whether x is a complex.
 func IsComplex(x Complex) bool {
-	top := topOf(x)
-	if !isPrime(x.Prime) || !isWithin(top, 0, MaxTop) || int64(len(x.Maps)) != top {
-		return false
-	}
-	for _, dim := range x.Dims {
-		if !isWithin(dim, 0, MaxDim) {
-			return false
-		}
-	}
-	for k, table := range x.Maps {
-		if !isTable(x.Prime, table, x.Dims[k+1], x.Dims[k]) {
-			return false
-		}
-	}
-	return squaresToZero(x)
+	return isPrime(x.Prime) && hasSizes(x, MaxDim, 0, x.Prime-1) && squaresToZero(x)
 }
 
 // DifferentialOf returns the differential of a vector v of the degree n, in 0..top, and ErrNone.
@@ -169,15 +155,7 @@ func DualComplex(x Complex) (Complex, int64) {
 	if !IsComplex(x) {
 		return Complex{}, ErrInvalid
 	}
-	top := topOf(x)
-	dual := Complex{Prime: x.Prime, Dims: make([]int64, top+1), Maps: make([][][]int64, top)}
-	for n := range top + 1 {
-		dual.Dims[n] = x.Dims[top-n]
-	}
-	for n := range top {
-		dual.Maps[n] = transposedTable(x.Maps[top-1-n], x.Dims[top-1-n])
-	}
-	return dual, ErrNone
+	return dualComplex(x), ErrNone
 }
 
 // ReduceRows returns the reduced list of the space of the sums of multiples of at most MaxRows
@@ -252,11 +230,13 @@ func isWithin(number int64, low int64, high int64) bool {
 
 // isRow reports whether a row has n numbers, all modulo p.
 func isRow(p int64, row []int64, n int64) bool {
-	if int64(len(row)) != n {
-		return false
-	}
+	return int64(len(row)) == n && areWithin(row, 0, p-1)
+}
+
+// areWithin reports whether all numbers of a row are in low..high.
+func areWithin(row []int64, low int64, high int64) bool {
 	for _, number := range row {
-		if !isWithin(number, 0, p-1) {
+		if !isWithin(number, low, high) {
 			return false
 		}
 	}
@@ -266,11 +246,31 @@ func isRow(p int64, row []int64, n int64) bool {
 // isTable reports whether a table has the given number of rows, each of the given number of
 // columns, with numbers modulo p.
 func isTable(p int64, table [][]int64, rows int64, columns int64) bool {
+	return isTableWithin(table, rows, columns, 0, p-1)
+}
+
+// isTableWithin reports whether a table has the given number of rows, each of the given number of
+// columns, with numbers in low..high.
+func isTableWithin(table [][]int64, rows int64, columns int64, low int64, high int64) bool {
 	if int64(len(table)) != rows {
 		return false
 	}
 	for _, row := range table {
-		if !isRow(p, row, columns) {
+		if int64(len(row)) != columns || !areWithin(row, low, high) {
+			return false
+		}
+	}
+	return true
+}
+
+// hasSizes reports whether x has degrees, with dimensions of at most the greatest one, and Maps of
+// these sizes with numbers in low..high.
+func hasSizes(x Complex, greatest int64, low int64, high int64) bool {
+	if !isWithin(topOf(x), 0, MaxTop) || int64(len(x.Maps)) != topOf(x) || !areWithin(x.Dims, 0, greatest) {
+		return false
+	}
+	for k, table := range x.Maps {
+		if !isTableWithin(table, x.Dims[k+1], x.Dims[k], low, high) {
 			return false
 		}
 	}
@@ -395,13 +395,14 @@ func zeroTable(rows int64, columns int64) [][]int64 {
 	return table
 }
 
-// scaledTable returns a new table with the numbers of a table times a factor.
+// scaledTable returns a new table with the numbers of a table times a factor, modulo p also if they
+// are less than 0.
 func scaledTable(p int64, factor int64, table [][]int64) [][]int64 {
 	scaled := make([][]int64, len(table))
 	for i, row := range table {
 		scaled[i] = make([]int64, len(row))
 		for j, number := range row {
-			scaled[i][j] = factor * number % p
+			scaled[i][j] = (factor*number%p + p) % p
 		}
 	}
 	return scaled
@@ -417,6 +418,19 @@ func transposedTable(table [][]int64, columns int64) [][]int64 {
 		}
 	}
 	return transposed
+}
+
+// dualComplex returns the dual of what has the sizes of a complex.
+func dualComplex(x Complex) Complex {
+	top := topOf(x)
+	dual := Complex{Prime: x.Prime, Dims: make([]int64, top+1), Maps: make([][][]int64, top)}
+	for n := range top + 1 {
+		dual.Dims[n] = x.Dims[top-n]
+	}
+	for n := range top {
+		dual.Maps[n] = transposedTable(x.Maps[top-1-n], x.Dims[top-1-n])
+	}
+	return dual
 }
 
 // sumTable returns a new table with the rows of a, and zeros behind each, and then the rows of b,

@@ -2,6 +2,7 @@ package tests
 
 import (
 	"fmt"
+	"math"
 	"reflect"
 	"slices"
 	"strings"
@@ -115,6 +116,15 @@ func numberFlaws[G any](letter string, low int64, high int64, place func(*G) *in
 		if bad < low || bad > high {
 			list = append(list, flaw[G]{letter, bad, impl.ErrRange, letter, func(a *G) { *place(a) = bad }})
 		}
+	}
+	return list
+}
+
+// primeFlaws lists flaws of a number that has to be a prime.
+func primeFlaws[G any](letter string, place func(*G) *int64) []flaw[G] {
+	var list []flaw[G]
+	for _, bad := range append([]int64{0, 1, 4, 6, 8, 9, 10, 11, 13, 25, 49, -3, -5, -7, 1<<32 + 2, 1<<32 + 3, math.MinInt64 + 2}, farNumbers...) {
+		list = append(list, flaw[G]{letter, bad, impl.ErrRange, letter, func(a *G) { *place(a) = bad }})
 	}
 	return list
 }

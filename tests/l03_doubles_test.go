@@ -23,17 +23,6 @@ func alternatingSum(table [][]int64) int64 {
 	return sum
 }
 
-// turned returns a table with columns and rows exchanged.
-func turned(table [][]int64) [][]int64 {
-	out := make([][]int64, len(table[0]))
-	for _, column := range table {
-		for j, number := range column {
-			out[j] = append(out[j], number)
-		}
-	}
-	return out
-}
-
 // expectDouble checks that x is a double complex.
 func expectDouble(t *testing.T, name string, x impl.Double) {
 	t.Helper()
@@ -220,16 +209,16 @@ func TestTransposedTwice(t *testing.T) {
 		if len(y.Dims) != len(x.Dims[0]) || len(y.Across) != len(x.Dims[0]) || len(y.Down) != len(x.Dims[0]) {
 			t.Fatalf("TransposeDouble(%s) = %v", name, y)
 		}
-		expectResults(t, "Dims of the transposed "+name, all(turned(x.Dims), x.Prime), all(y.Dims, y.Prime))
+		expectResults(t, "Dims of the transposed "+name, all(turned(x.Dims, int64(len(x.Dims[0]))), x.Prime), all(y.Dims, y.Prime))
 		for _, c := range spotsOf(x) {
 			expectResults(t, fmt.Sprint("cell ", c, " of the transposed ", name), all(x.Across[c.i][c.j], x.Down[c.i][c.j]), all(y.Down[c.j][c.i], y.Across[c.j][c.i]))
 		}
 		columns, code := impl.ColumnHomology(x)
 		expectCode(t, "ColumnHomology", impl.ErrNone, all(columns, code))
-		expectResults(t, "RowHomology of the transposed "+name, all(turned(columns), 0), all(impl.RowHomology(y)))
+		expectResults(t, "RowHomology of the transposed "+name, all(turned(columns, int64(len(x.Dims[0]))), 0), all(impl.RowHomology(y)))
 		second, code := impl.SecondNumbers(x, true)
 		expectCode(t, "SecondNumbers", impl.ErrNone, all(second, code))
-		expectResults(t, "SecondNumbers of the transposed "+name, all(turned(second), 0), all(impl.SecondNumbers(y, false)))
+		expectResults(t, "SecondNumbers of the transposed "+name, all(turned(second, int64(len(x.Dims[0]))), 0), all(impl.SecondNumbers(y, false)))
 		euler, code := impl.DoubleEuler(x)
 		expectResults(t, "DoubleEuler of the transposed "+name, all(euler, code), all(impl.DoubleEuler(y)))
 	}

@@ -2,7 +2,6 @@ package tests
 
 import (
 	"fmt"
-	"math"
 	"slices"
 	"testing"
 
@@ -78,15 +77,6 @@ func givenFrom(g *numbers, m mapPair) (given6, bool) {
 	}, true
 }
 
-// primeFlaws lists flaws of the prime of a unit or of a sphere.
-func primeFlaws() []flaw[given6] {
-	var list []flaw[given6]
-	for _, bad := range append([]int64{0, 1, 4, 6, 8, 9, 10, 11, 13, 25, 49, -3, -5, -7, 1<<32 + 2, 1<<32 + 3, math.MinInt64 + 2}, farNumbers...) {
-		list = append(list, flaw[given6]{"p", bad, impl.ErrRange, "p", func(a *given6) { a.p = bad }})
-	}
-	return list
-}
-
 // flawsFrom lists flaws of each kind for arguments, kind by kind.
 func flawsFrom(random *numbers, a given6, wrong []impl.Complex) [][]flaw[given6] {
 	p := a.x.Prime
@@ -111,7 +101,7 @@ func flawsFrom(random *numbers, a given6, wrong []impl.Complex) [][]flaw[given6]
 		numberFlaws("n", 0, 2*impl.MaxTop, func(a *given6) *int64 { return &a.n }),
 		numberFlaws("k", 0, 4, func(a *given6) *int64 { return &a.k }),
 		numberFlaws("s", 0, impl.MaxTop, func(a *given6) *int64 { return &a.s }),
-		primeFlaws(),
+		primeFlaws("p", func(a *given6) *int64 { return &a.p }),
 	}
 }
 
