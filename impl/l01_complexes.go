@@ -69,11 +69,7 @@ func HomologyNumbers(x Complex) ([]int64, int64) {
 	if !IsComplex(x) {
 		return nil, ErrInvalid
 	}
-	numbers := make([]int64, len(x.Dims))
-	for n := range numbers {
-		numbers[n] = homologyNumber(x, int64(n))
-	}
-	return numbers, ErrNone
+	return homologyNumbers(x), ErrNone
 }
 
 // HomologyList returns the homology list of the degree n, in 0..top, and ErrNone.
@@ -473,6 +469,15 @@ func homologySpace(x Complex, n int64) []vector {
 // homologyNumber returns the homology number of the degree n.
 func homologyNumber(x Complex, n int64) int64 {
 	return int64(len(cycleSpace(x, n)) - len(boundarySpace(x, n)))
+}
+
+// homologyNumbers returns the homology numbers of all degrees.
+func homologyNumbers(x Complex) []int64 {
+	numbers := make([]int64, len(x.Dims))
+	for n := range numbers {
+		numbers[n] = homologyNumber(x, int64(n))
+	}
+	return numbers
 }
 
 // vectorOf returns a row of at most MaxRows numbers as a vector.
