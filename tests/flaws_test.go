@@ -209,3 +209,6 @@ func expectPairsOfFlaws[G any](t *testing.T, random *numbers, a G, calls func(G)
 		}
 	}
 }
+
+// undoNone tells that no two flaws take back each other.
+func undoNone[G any](flaw[G], flaw[G]) bool { return false }

@@ -211,3 +211,36 @@ func (g *numbers) table(p int64, rows int64, columns int64) [][]int64 {
 	}
 	return out
 }
+
+// acceptedTexts counts the texts of some letters, at most as long as told, that a function accepts.
+func acceptedTexts(letters string, longest int, accepts func(string) bool) int {
+	texts, accepted := []string{""}, 0
+	for length := range longest + 1 {
+		var longer []string
+		for _, text := range texts {
+			if accepts(text) {
+				accepted++
+			}
+			for _, letter := range letters {
+				if length < longest {
+					longer = append(longer, text+string(letter))
+				}
+			}
+		}
+		texts = longer
+	}
+	return accepted
+}
+
+// textsAround lists what arises from a text that is left off or loses a letter at any place, or has one of
+// the given letters added to it or put in the place of another one.
+func textsAround(text string, letters ...string) []string {
+	var list []string
+	for i := range len(text) {
+		list = append(list, text[:i], text[:i]+text[i+1:])
+		for _, letter := range letters {
+			list = append(list, text[:i]+letter+text[i:], text[:i]+letter+text[i+1:])
+		}
+	}
+	return list
+}

@@ -71,21 +71,7 @@ func checkText(t *testing.T, text string) bool {
 }
 
 func TestAllShortTexts(t *testing.T) {
-	texts, accepted := []string{""}, 0
-	for range 7 {
-		var longer []string
-		for _, text := range texts {
-			for _, letter := range ":,;-012" {
-				longer = append(longer, text+string(letter))
-			}
-		}
-		texts = longer
-		for _, text := range texts {
-			if checkText(t, text) {
-				accepted++
-			}
-		}
-	}
+	accepted := acceptedTexts(":,;-012", 7, func(text string) bool { return checkText(t, text) })
 	// 2:0: 2:1: 2:2:, then 2:0,0:- 2:0,1:- 2:1,0:- 2:2,0:- 2:1,1:0 2:1,1:1
 	if accepted != 9 {
 		t.Errorf("%d short texts of complexes", accepted)
@@ -94,14 +80,8 @@ func TestAllShortTexts(t *testing.T) {
 
 func TestTextsWithOneChange(t *testing.T) {
 	for _, k := range knownComplexes(1) {
-		text := textOf(t, k.Complex)
-		for i := range len(text) {
-			checkText(t, text[:i])
-			checkText(t, text[:i]+text[i+1:])
-			for _, letter := range []string{":", ",", ";", "-", "0", "1", "2", "7", "9", " ", "\n", "\xff"} {
-				checkText(t, text[:i]+letter+text[i:])
-				checkText(t, text[:i]+letter+text[i+1:])
-			}
+		for _, text := range textsAround(textOf(t, k.Complex), ":", ",", ";", "-", "0", "1", "2", "7", "9", " ", "\n", "\xff") {
+			checkText(t, text)
 		}
 	}
 }

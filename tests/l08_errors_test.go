@@ -126,9 +126,6 @@ func flaws8(random *numbers, a given8, wrong []impl.Complex) [][]flaw[given8] {
 	}
 }
 
-// undoNone tells that no two flaws take back each other.
-func undoNone(flaw[given8], flaw[given8]) bool { return false }
-
 func TestErrorsOfChapter8(t *testing.T) {
 	random := &numbers{state: 112}
 	wrong := noComplexes()
