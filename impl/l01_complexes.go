@@ -188,16 +188,12 @@ func ComplexText(x Complex) (string, int64) {
 	if !IsComplex(x) {
 		return "", ErrInvalid
 	}
-	dims := make([]string, len(x.Dims))
-	for n, dim := range x.Dims {
-		dims[n] = strconv.FormatInt(dim, 10)
-	}
 	maps := make([]string, len(x.Maps))
 	for k, table := range x.Maps {
 		maps[k] = tableText(table)
 	}
 	prime := strconv.FormatInt(x.Prime, 10)
-	return prime + ":" + strings.Join(dims, ",") + ":" + strings.Join(maps, ";"), ErrNone
+	return prime + ":" + joinedNumbers(x.Dims, ",") + ":" + strings.Join(maps, ";"), ErrNone
 }
 
 // ParseComplex returns the complex with a text, and ErrNone. Errors: ErrSyntax if there is none.
@@ -657,6 +653,15 @@ func sumSpace(p int64, a []vector, b []vector) []vector {
 // vector is in a space exactly if it annihilates what annihilates the space.
 func meetSpace(p int64, n int64, a []vector, b []vector) []vector {
 	return annihilator(p, n, slices.Concat(annihilator(p, n, a), annihilator(p, n, b)))
+}
+
+// joinedNumbers returns the texts of numbers with a separator between them.
+func joinedNumbers(numbers []int64, separator string) string {
+	texts := make([]string, len(numbers))
+	for i, number := range numbers {
+		texts[i] = strconv.FormatInt(number, 10)
+	}
+	return strings.Join(texts, separator)
 }
 
 // tableText returns the text of one of the Maps.
